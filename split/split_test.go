@@ -465,14 +465,57 @@ func TestNextWithoutPieces(t *testing.T) {
 	}
 }
 
-// P22.2: no line of a note comes after its end, so that a piece whose To is beyond
-// it is followed by the next note.
+// P22.2: the end of a note is the number of its lines, and a To beyond it is the
+// position after the piece as it stands.
 func TestNextBeyondTheEnd(t *testing.T) {
-	l := []api.Note{foot(3, 0, 0), foot(0)}
-	for _, to := range []int{4, 5, math.MaxInt} {
-		for n := range l {
-			if next, line := Next(l, Spot{}, []api.Piece{{N: n, To: to}}); next != n+1 || line != 0 {
-				t.Errorf("Next of note %d to %d = %d, %d", n, to, next, line)
+	l := []api.Note{foot(0), foot(3, 0, 0), foot(0, 3, 4), foot(1)}
+	rows := []struct {
+		piece      api.Piece
+		note, line int
+	}{
+		{piece(0, 0, 0), 1, 0},
+		{piece(0, 0, 1), 0, 1},
+		{piece(0, 0, 2), 0, 2},
+		{piece(0, 0, math.MaxInt), 0, math.MaxInt},
+		{piece(1, 0, 2), 1, 2},
+		{piece(1, 0, 3), 2, 0},
+		{piece(1, 0, 4), 1, 4},
+		{piece(1, 2, 1<<30), 1, 1 << 30},
+		{piece(1, 4, 5), 1, 5},
+		{piece(1, 0, math.MaxInt), 1, math.MaxInt},
+		{piece(2, 0, 0), 3, 0},
+		{piece(2, 0, 1), 2, 1},
+		{piece(2, 0, 2), 2, 2},
+		{piece(3, 0, 1), 4, 0},
+		{piece(3, 0, 2), 3, 2},
+		{piece(3, 1, 64), 3, 64},
+	}
+	for _, s := range []Spot{{}, {1, 2, 3, true}, {-1, -1, math.MinInt, false}} {
+		for _, r := range rows {
+			for _, pieces := range [][]api.Piece{{r.piece}, {piece(1, 0, 3), r.piece}, {piece(0, 0, 9), r.piece}} {
+				if n, line := Next(l, s, pieces); n != r.note || line != r.line {
+					t.Errorf("Next of %v = %d, %d, want %d, %d", pieces, n, line, r.note, r.line)
+				}
+			}
+		}
+	}
+}
+
+// P22.2: every To in and around every note, from every line: only the number of
+// lines leads to the next note.
+func TestNextOfEveryPiece(t *testing.T) {
+	l := append(alphabet(), foot(64, make([]int, 63)...))
+	for i := range l {
+		lines := len(l[i].Lines)
+		for _, from := range around(lines) {
+			for _, to := range around(lines) {
+				note, line := i, to
+				if to == lines {
+					note, line = i+1, 0
+				}
+				if n, at := Next(l, Spot{}, []api.Piece{piece(i, from, to)}); n != note || at != line {
+					t.Errorf("Next of note %d to %d = %d, %d, want %d, %d", i, to, n, at, note, line)
+				}
 			}
 		}
 	}
